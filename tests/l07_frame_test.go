@@ -31,11 +31,11 @@ func frameByWords(text string) string {
 }
 
 func framesByWords(records []string) string {
-	file := ""
+	var file strings.Builder
 	for _, r := range records {
-		file += frameByWords(r)
+		file.WriteString(frameByWords(r))
 	}
-	return file
+	return file.String()
 }
 
 // unframeByWords tries at each place, for each length whose bytes stand there, whether the file goes on with a frame of it.
